@@ -133,6 +133,44 @@ func TestP702OnlyAPartTooLarge(t *testing.T) {
 	}
 }
 
+// TestP702MembersTogetherTooLarge: of many members those up to one may be too large together, each of them small enough; that counts where no member ahead of it takes the place of all, even if a later one does.
+func TestP702MembersTogetherTooLarge(t *testing.T) {
+	one, other := manyStars(40, b), manyStars(40, star(b)) // about 2500 nodes each
+	for _, x := range []struct {
+		kind        int
+		early, late plain // by size ahead of the others, and behind them
+		should      plain
+	}{
+		{api.Union, cat(a, all), not(cat(b, row(100))), all},
+		{api.Inter, b, cat(b, row(100)), none},
+	} {
+		greatest(t, join(x.kind, one, x.late), normalBy(one, 'a').size())
+		gives(t, join(x.kind, one, x.late), 'a', x.should)
+		gives(t, left(x.kind, one, other, x.early), 'a', x.should)
+		gives(t, left(x.kind, x.late, one, other, x.early), 'a', x.should)
+		tooLarge(t, join(x.kind, one, other), 'a')
+		tooLarge(t, left(x.kind, one, other, x.late), 'a')
+		tooLarge(t, left(x.kind, x.late, other, one), 'a')
+		tooLarge(t, cat(left(x.kind, one, other, x.late), c), 'a')
+	}
+}
+
+// TestP702RowsOfMembers: many members, and many parts that say the empty word, most of which the letter leads to None.
+func TestP702RowsOfMembers(t *testing.T) {
+	d := dice(662607015)
+	for range 60 {
+		var parts []plain
+		for range 10 + d.below(40) {
+			parts = append(parts, or(empty, d.rich(3+d.below(6))), star(d.rich(3+d.below(4))))
+		}
+		byTheDefinition(t, left(api.Union, parts...), 'a')
+		byTheDefinition(t, left(api.Inter, parts...), 'a')
+		byTheDefinition(t, right(api.Concat, parts[:20]...), 'c')
+		byTheDefinition(t, right(api.Concat, append(parts[:15], a, b)...), 'b')
+		byTheDefinition(t, right(api.Concat, append(parts[:10], cat(dot, all))...), 'b')
+	}
+}
+
 // TestP702ComplementTooLarge: the complement of the derivative, with one node more, is on the way to the derivative itself.
 func TestP702ComplementTooLarge(t *testing.T) {
 	around := func(p plain) plain { return not(or(not(p), b)) }

@@ -4,7 +4,6 @@ import (
 	"slices"
 
 	"eggbox/api"
-	"eggbox/match"
 	"eggbox/norm"
 )
 
@@ -71,17 +70,13 @@ func (f form) tree(root int) []api.Node { return f.nodes[f.begins[root] : root+1
 // first: the root of a tree's first part, where it has two.
 func (f form) first(root int) int { return f.begins[root-1] - 1 }
 
-// named: the roots of a tree's parts whose derivatives its own one names.
+// named: the roots of the trees of whose derivatives a tree's own one is made. Of a row of nodes of one kind all parts are named at once: what has many of them would else be written anew for each one.
 func (f form) named(root int) []int {
 	switch f.nodes[root].Kind {
-	case api.Concat:
-		first := f.first(root)
-		if empty, _ := match.Nullable(f.tree(first)); !empty {
-			return []int{first}
-		}
-		fallthrough
 	case api.Union, api.Inter:
-		return []int{f.first(root), root - 1}
+		return f.members(root)
+	case api.Concat:
+		return f.row(root)
 	case api.Star, api.Not:
 		return []int{root - 1}
 	}
@@ -100,20 +95,18 @@ func (f form) rule(root int, letter byte, named [][]api.Node) ([]api.Node, api.E
 	case api.Any:
 		return leaf(api.Empty), api.OK
 	case api.Inter:
-		return norm.Inter(named[0], named[1])
+		return joined(api.Inter, named)
 	case api.Star:
-		return norm.Concat(named[0], f.tree(root))
+		return ahead(named[0], f.tree(root))
 	case api.Not:
 		return norm.Not(named[0])
 	case api.Concat:
-		whole, e := norm.Concat(named[0], f.tree(root-1))
-		if e != api.OK || len(named) == 1 {
-			return whole, e
+		if e := f.lengthen(root, named); e != api.OK {
+			return nil, e
 		}
-		named[0] = whole
 		fallthrough
 	case api.Union:
-		return norm.Union(named[0], named[1])
+		return joined(api.Union, named)
 	}
 	return leaf(api.None), api.OK
 }
